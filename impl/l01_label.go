@@ -43,6 +43,8 @@ type partBits uint8
 // levelStep is how far apart the codes of two levels lie: there is room for every sum of bits between them.
 const levelStep = AllParts + 1
 
+const lastCode = MaxLevel*levelStep + AllParts
+
 // partLetters has the letter of the bit 1<<place at each place.
 var partLetters = [4]byte{'a', 'b', 'c', 'd'}
 
@@ -82,7 +84,7 @@ func CodeOf(l Label) IntResult {
 }
 
 func LabelOf(code int64) LabelResult {
-	if code < 0 || code > MaxLevel*levelStep+AllParts {
+	if !isLabelCode(code) {
 		return LabelResult{Code: ErrRange}
 	}
 	return LabelResult{Label: Label{Level: code / levelStep, Parts: code % levelStep}}
@@ -110,6 +112,10 @@ func ParseLabel(text string) LabelResult {
 		return LabelResult{Code: ErrText}
 	}
 	return LabelResult{Label: labelWith(int64(text[1]-'0'), bits)}
+}
+
+func isLabelCode(code int64) bool {
+	return code >= 0 && code <= lastCode
 }
 
 func faultOfBoth(a Label, b Label) int64 {
